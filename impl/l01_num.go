@@ -50,7 +50,7 @@ func readDigits(s string, most int) int {
 	}
 	n := 0
 	for i := 0; i < len(s); i++ {
-		if s[i] < '0' || s[i] > '9' {
+		if !isDigit(s[i]) {
 			panicMalformed()
 		}
 		n = 10*n + int(s[i]-'0')
