@@ -758,8 +758,10 @@ func TestSharedArgs(t *testing.T) {
 	if impl.CountExpr(whole) != 8 || impl.DepthOfExpr(whole) != 3 || !slices.Equal(impl.VarsOfExpr(whole), []string{"x", "y"}) || impl.EqualExpr(one, two) {
 		t.Error("lists of different lengths are taken for one")
 	}
-	if got := impl.VarsOfExpr(impl.Expr{Args: []impl.Expr{one, {Args: pair[1:]}}}); !slices.Equal(got, []string{"x", "y"}) {
-		t.Errorf("VarsOfExpr of parts of one list is %q", got)
+	for _, other := range []impl.Expr{{Args: pair[1:]}, two} {
+		if got := impl.VarsOfExpr(impl.Expr{Args: []impl.Expr{one, other}}); !slices.Equal(got, []string{"x", "y"}) {
+			t.Errorf("VarsOfExpr of parts of one list is %q", got)
+		}
 	}
 	// Written out, it has 2 to the 41 minus 1 nodes.
 	e = ref("x")
