@@ -579,10 +579,42 @@ func randomTexts(random *rand.Rand, depth int) []string {
 	return slices.Concat(randomTexts(random, depth-1), []string{symbol}, randomTexts(random, depth-1))
 }
 
+// spacedAtRandom returns source code that begins with a separator or is empty, so no token is at 0.
+func spacedAtRandom(random *rand.Rand, texts []string) string {
+	var s strings.Builder
+	for _, text := range texts {
+		s.WriteString([]string{" ", " ", "\n", "  "}[random.IntN(4)] + text)
+	}
+	return s.String() + strings.Repeat(" ", random.IntN(3))
+}
+
+// outcomes has the numbers of sources of spacedAtRandom by the offsets that a parser reports.
+type outcomes struct{ accepted, notValid, early, wrong int }
+
+func (o *outcomes) count(s string, bad int) {
+	switch bad {
+	case -1:
+		o.accepted++
+	case 0:
+		o.notValid++
+	case len(s):
+		o.early++
+	default:
+		o.wrong++
+	}
+}
+
+func (o outcomes) wantEach(t *testing.T, least int) {
+	t.Helper()
+	if min(o.accepted, o.notValid, o.early, o.wrong) < least {
+		t.Errorf("%d sources were accepted, %d are not valid, %d end too early, %d have another error", o.accepted, o.notValid, o.early, o.wrong)
+	}
+}
+
 func TestRandomSources(t *testing.T) {
 	random := rand.New(rand.NewPCG(6, 2))
 	others := append(slices.Clone(allSymbols), "x", "1", "if", "a", "=", "4", "12", "abcdefghi", "X")
-	accepted, notValid, early, wrong := 0, 0, 0, 0
+	var found outcomes
 	for range 60000 {
 		texts := randomTexts(random, random.IntN(7))
 		at := random.IntN(len(texts))
@@ -594,27 +626,12 @@ func TestRandomSources(t *testing.T) {
 		case 2:
 			texts = slices.Insert(slices.Clone(texts), at, others[random.IntN(len(others))])
 		}
-		var s strings.Builder
-		for _, text := range texts {
-			s.WriteString([]string{" ", " ", "\n", "  "}[random.IntN(4)] + text)
-		}
-		s.WriteString(strings.Repeat(" ", random.IntN(3)))
-		wantParsedByTree(t, s.String())
-		switch _, bad := impl.ParseExpr(s.String()); {
-		case bad == -1:
-			accepted++
-		case bad == 0:
-			// Each source begins with a separator or is empty, so there is no token at 0.
-			notValid++
-		case bad == s.Len():
-			early++
-		default:
-			wrong++
-		}
+		s := spacedAtRandom(random, texts)
+		wantParsedByTree(t, s)
+		_, bad := impl.ParseExpr(s)
+		found.count(s, bad)
 	}
-	if min(accepted, notValid, early, wrong) < 3000 {
-		t.Errorf("%d sources were accepted, %d are not valid, %d end too early, %d have another error", accepted, notValid, early, wrong)
-	}
+	found.wantEach(t, 3000)
 }
 
 // elementsOf returns pointers to all elements of the lists of e, also to those behind their ends.
