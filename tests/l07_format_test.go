@@ -26,33 +26,44 @@ func wantLevel(t *testing.T, e impl.Expr, want int) {
 	}
 }
 
-func wantFormat(t *testing.T, e impl.Expr, want string) {
+// wantFormatOf takes a function that returns source code, "" of what is not valid. It does not print that, as it may be endless.
+func wantFormatOf[T any](t *testing.T, format func(T) string, value T, want string) {
 	t.Helper()
-	if got := impl.FormatExpr(e); got != want {
-		t.Errorf("FormatExpr(%.300s) = %q; want %q", fmt.Sprint(e), got, want)
+	if got := format(value); got != want {
+		text := "what is not valid"
+		if want != "" {
+			text = fmt.Sprint(value)
+		}
+		t.Errorf("the source code of %.400s is %.400q; want %q", text, got, want)
 	}
 }
 
-// wantNoFormat takes an expression that is not valid, and does not print it, as it may be endless.
+func wantFormat(t *testing.T, e impl.Expr, want string) {
+	t.Helper()
+	wantFormatOf(t, impl.FormatExpr, e, want)
+}
+
 func wantNoFormat(t *testing.T, e impl.Expr) {
 	t.Helper()
-	if got := impl.FormatExpr(e); got != "" {
-		t.Errorf("FormatExpr of an expression that is not valid is %q", got)
+	wantFormatOf(t, impl.FormatExpr, e, "")
+}
+
+// wantNormalBy takes a function that normalizes source code, and "" as want if this has an error.
+func wantNormalBy(t *testing.T, normalize func(string) (string, bool), s string, want string) {
+	t.Helper()
+	if got, ok := normalize(s); got != want || ok != (want != "") {
+		t.Errorf("%.450q is normalized to %q, %v; want %q", s, got, ok, want)
 	}
 }
 
 func wantNormal(t *testing.T, s string, want string) {
 	t.Helper()
-	if got, ok := impl.NormalizeExpr(s); got != want || !ok {
-		t.Errorf("NormalizeExpr(%q) = %q, %v; want %q", s, got, ok, want)
-	}
+	wantNormalBy(t, impl.NormalizeExpr, s, want)
 }
 
 func wantNotNormal(t *testing.T, s string) {
 	t.Helper()
-	if got, ok := impl.NormalizeExpr(s); got != "" || ok {
-		t.Errorf("NormalizeExpr(%.450q) = %q, %v; want an error", s, got, ok)
-	}
+	wantNormalBy(t, impl.NormalizeExpr, s, "")
 }
 
 // spacedOut returns the tokens of s with single spaces around binary operators, and no others.
